@@ -220,6 +220,7 @@ func TestGuardIsAnother(t *testing.T) {
 				}
 			}
 		}
+		w.same()
 	}
 	w := newWorld(t, map[int]int{9: 2}, nil)
 	for _, text := range []string{"110 10", "011 10", "101 10", "00 100", "001 00", "000100", "00000100"} {
@@ -423,6 +424,7 @@ func TestNodeInItself(t *testing.T) {
 					if rest != 0 {
 						w.fails(c, ptr<<rest|level>>(one-rest), 16, api.ErrLookup)
 					}
+					w.same()
 				}
 			}
 		}
